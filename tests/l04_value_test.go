@@ -72,8 +72,8 @@ func forest() impl.Signature {
 	return declared("tree = Leaf | Wrap tree | Node tree tree", "fan = Fan int")
 }
 
-// brief returns what is enough to recognize a value in a message.
-func brief(v impl.Value) string {
+// brief returns what is enough to recognize a value or a pattern in a message.
+func brief(v any) string {
 	s := fmt.Sprint(v)
 	return s[:min(len(s), 300)]
 }
@@ -972,17 +972,21 @@ func argLists(v impl.Value) [][]impl.Value {
 	return lists
 }
 
+func valueNumber(v *impl.Value) *int { return &v.N }
+
 // wantSeparate checks that no two lists share memory: each is filled with a number of its own.
-func wantSeparate(t *testing.T, lists [][]impl.Value) {
+func wantSeparate[T any](t *testing.T, lists [][]T, number func(*T) *int) {
 	t.Helper()
 	for i, list := range lists {
 		for k := range list {
-			list[k] = intOf(i)
+			*number(&list[k]) = i
 		}
 	}
 	for i, list := range lists {
-		if slices.ContainsFunc(list, func(v impl.Value) bool { return v.N != i }) {
-			t.Errorf("list %d shares memory with another one", i)
+		for k := range list {
+			if *number(&list[k]) != i {
+				t.Errorf("list %d shares memory with another one", i)
+			}
 		}
 	}
 }
@@ -999,7 +1003,7 @@ func TestValuesAreNewMemory(t *testing.T) {
 			lists = append(lists, argLists(v)...)
 		}
 	}
-	wantSeparate(t, lists)
+	wantSeparate(t, lists, valueNumber)
 	c := conOf("C", intOf(0), intOf(0))
 	b := conOf("B", thrice(c)...)
 	wantDefault(t, s, "a", conOf("A", b, b, c))

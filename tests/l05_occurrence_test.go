@@ -580,7 +580,7 @@ func TestPartsAreNewMemory(t *testing.T) {
 			results = append(results, argLists(part)...)
 		}
 	}
-	wantSeparate(t, results)
+	wantSeparate(t, results, valueNumber)
 	if !sameValue(v, want) {
 		t.Errorf("the value after its parts were overwritten is %s", brief(v))
 	}
