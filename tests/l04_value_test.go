@@ -977,14 +977,20 @@ func valueNumber(v *impl.Value) *int { return &v.N }
 // wantSeparate checks that no two lists share memory: each is filled with a number of its own.
 func wantSeparate[T any](t *testing.T, lists [][]T, number func(*T) *int) {
 	t.Helper()
+	wantMarked(t, lists, number, func(i int) int { return i })
+}
+
+// wantMarked checks that no two lists share memory: a field of the elements is set to the mark of their list.
+func wantMarked[T any, M comparable](t *testing.T, lists [][]T, field func(*T) *M, mark func(i int) M) {
+	t.Helper()
 	for i, list := range lists {
 		for k := range list {
-			*number(&list[k]) = i
+			*field(&list[k]) = mark(i)
 		}
 	}
 	for i, list := range lists {
 		for k := range list {
-			if *number(&list[k]) != i {
+			if *field(&list[k]) != mark(i) {
 				t.Errorf("list %d shares memory with another one", i)
 			}
 		}
